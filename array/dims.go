@@ -4,6 +4,7 @@ import (
 	"slices"
 
 	"adjoint/api"
+	"adjoint/list"
 	"adjoint/view"
 )
 
@@ -40,7 +41,7 @@ func Weight(op api.Op, args [][]int) (int, api.Errno) {
 	}
 	switch op.Kind {
 	case api.Dot:
-		weight += 2 * made * count(these(args[0], op.At))
+		weight += 2 * made * count(list.These(args[0], op.At))
 	case api.Join:
 		weight += made * len(args)
 	}
@@ -51,7 +52,7 @@ func Weight(op api.Op, args [][]int) (int, api.Errno) {
 func shape(op api.Op, args [][]int) ([]int, api.Errno) {
 	switch op.Kind {
 	case api.Fill:
-		return fresh(op.Dims), api.OK
+		return list.Fresh(op.Dims), api.OK
 	case api.Spread, api.Turn, api.Cut, api.Flip:
 		v, err := seen(op, args[0])
 		return v.Dims, err
@@ -94,7 +95,7 @@ func sameDims(args [][]int) ([]int, api.Errno) {
 			return nil, api.ErrShape
 		}
 	}
-	return fresh(args[0]), api.OK
+	return list.Fresh(args[0]), api.OK
 }
 
 // sumDims are dimensions without those that are summed.
@@ -104,7 +105,7 @@ func sumDims(op api.Op, dims []int) ([]int, api.Errno) {
 		return nil, err
 	}
 	kept, _ := others(len(dims), op.At)
-	return these(dims, kept), api.OK
+	return list.These(dims, kept), api.OK
 }
 
 // reformDims are other dimensions of as many numbers.
@@ -116,7 +117,7 @@ func reformDims(op api.Op, dims []int) ([]int, api.Errno) {
 	if size != count(dims) {
 		return nil, api.ErrShape
 	}
-	return fresh(op.Dims), api.OK
+	return list.Fresh(op.Dims), api.OK
 }
 
 // padDims are dimensions with noughts around and between.
@@ -142,7 +143,7 @@ func padDims(op api.Op, dims []int) ([]int, api.Errno) {
 
 // joinDims are the dimensions of arrays that stand one behind the other.
 func joinDims(op api.Op, args [][]int) ([]int, api.Errno) {
-	out := fresh(args[0])
+	out := list.Fresh(args[0])
 	if len(op.At) != 1 || op.At[0] < 0 || op.At[0] >= len(out) {
 		return nil, api.ErrShape
 	}
@@ -179,15 +180,6 @@ func count(dims []int) int {
 		many *= dim
 	}
 	return many
-}
-
-// these are the dimensions with these numbers.
-func these(dims, at []int) []int {
-	out := make([]int, len(at))
-	for i, k := range at {
-		out[i] = dims[k]
-	}
-	return out
 }
 
 // others are the numbers of the dimensions, of so many, that no list names; false: a list names one that there is not, or one is named twice.

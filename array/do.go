@@ -2,6 +2,7 @@ package array
 
 import (
 	"adjoint/api"
+	"adjoint/list"
 	"adjoint/view"
 )
 
@@ -110,7 +111,7 @@ func landing(op api.Op, from, made []int) []int {
 		kept, _ := others(len(from), op.At)
 		v, _ = view.Spread(v, from, kept)
 	} else {
-		end := fresh(made)
+		end := list.Fresh(made)
 		for k, behind := range op.Hi {
 			end[k] -= behind
 		}

@@ -4,13 +4,14 @@ import (
 	"slices"
 
 	"adjoint/api"
+	"adjoint/list"
 )
 
 // Plain is an operation without what means nothing.
 func Plain(op api.Op) api.Op {
 	out := meant(op)
-	out.Dims, out.At = fresh(out.Dims), fresh(out.At)
-	out.Lo, out.Hi, out.Step = fresh(out.Lo), fresh(out.Hi), fresh(out.Step)
+	out.Dims, out.At = list.Fresh(out.Dims), list.Fresh(out.At)
+	out.Lo, out.Hi, out.Step = list.Fresh(out.Lo), list.Fresh(out.Hi), list.Fresh(out.Step)
 	return out
 }
 
@@ -62,11 +63,4 @@ func takes(kind, many int) api.Errno {
 		return api.ErrMany
 	}
 	return api.OK
-}
-
-// fresh is a list that shares nothing with the one that it is like.
-func fresh(list []int) []int {
-	out := make([]int, len(list))
-	copy(out, list)
-	return out
 }

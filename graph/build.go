@@ -3,6 +3,7 @@ package graph
 import (
 	"adjoint/api"
 	"adjoint/array"
+	"adjoint/list"
 	"adjoint/sense"
 	"adjoint/view"
 )
@@ -43,11 +44,11 @@ type writer struct{ api.Graph }
 
 // do writes an operation down, if its arguments fit.
 func (w *writer) do(op api.Op, args []spot) (spot, api.Errno) {
-	made, err := array.Dims(op, each(args, dimsOf))
+	made, err := array.Dims(op, list.Each(args, dimsOf))
 	if err != api.OK {
 		return spot{}, err
 	}
-	return w.write(op, each(args, numberOf), made), api.OK
+	return w.write(op, list.Each(args, numberOf), made), api.OK
 }
 
 // write lays a node behind the others. The operation's lists are not the writer's, so it has them in memory of its own.

@@ -1,6 +1,9 @@
 package view
 
-import "adjoint/api"
+import (
+	"adjoint/api"
+	"adjoint/list"
+)
 
 // Turn puts the dimensions into another order.
 func Turn(v api.View, perm []int) (api.View, api.Errno) {
@@ -25,7 +28,7 @@ func Flip(v api.View, at []int) (api.View, api.Errno) {
 	if !rises(at, len(v.Dims)) {
 		return api.View{}, api.ErrShape
 	}
-	out := api.View{Start: v.Start, Dims: fresh(v.Dims), Steps: fresh(v.Steps)}
+	out := api.View{Start: v.Start, Dims: list.Fresh(v.Dims), Steps: list.Fresh(v.Steps)}
 	for _, k := range at {
 		// A dimension of 0 has no last entry to begin at.
 		if v.Dims[k] > 0 {

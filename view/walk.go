@@ -5,6 +5,7 @@ import (
 	"slices"
 
 	"adjoint/api"
+	"adjoint/list"
 )
 
 // lastFirst goes through dimensions, from the last one on, and tells of each how many indices those behind it have: so much further, in the order of indices, is the next one along it.
@@ -28,12 +29,5 @@ func beyond(v api.View) bool {
 
 // blank is a view with these dimensions, whose steps are all 0.
 func blank(start int, dims []int) api.View {
-	return api.View{Start: start, Dims: fresh(dims), Steps: make([]int, len(dims))}
-}
-
-// fresh is a list that shares nothing with the one that it is like.
-func fresh(list []int) []int {
-	out := make([]int, len(list))
-	copy(out, list)
-	return out
+	return api.View{Start: start, Dims: list.Fresh(dims), Steps: make([]int, len(dims))}
 }

@@ -1,0 +1,23 @@
+// Package list: what several layers do with lists, whatever stands in them.
+package list
+
+// Fresh is a list in memory of its own, like another one.
+func Fresh[T any](list []T) []T {
+	out := make([]T, len(list))
+	copy(out, list)
+	return out
+}
+
+// Each is what comes of each thing in a list.
+func Each[T, U any](list []T, of func(T) U) []U {
+	out := make([]U, len(list))
+	for i, x := range list {
+		out[i] = of(x)
+	}
+	return out
+}
+
+// These are the things with these numbers.
+func These[T any](all []T, at []int) []T {
+	return Each(at, func(k int) T { return all[k] })
+}
