@@ -103,14 +103,14 @@ func (f *asked) summed(a int) {
 	f.filled(a, product(list.These(f.dims[a], f.Op.At)))
 	for sum := range f.of(api.Sum, a) {
 		b := sum.Args[0]
-		kept := others(len(f.dims[b]), sum.Op.At)
+		kept := list.Others(len(f.dims[b]), sum.Op.At)
 		at := append(list.These(kept, f.Op.At), sum.Op.At...)
 		slices.Sort(at)
 		f.is(f.class(api.Op{Kind: api.Sum, At: at}, b))
 	}
 	f.parted(api.Add, a)
 	for wide := range f.of(api.Spread, a) {
-		if slices.Equal(others(len(wide.Op.Dims), wide.Op.At), f.Op.At) {
+		if slices.Equal(list.Others(len(wide.Op.Dims), wide.Op.At), f.Op.At) {
 			times := product(list.These(wide.Op.Dims, f.Op.At))
 			f.is(f.two(api.Mul, wide.Args[0], f.full(times)))
 		}
@@ -135,7 +135,7 @@ func (f *asked) moved(a int) {
 func (f *asked) stays(a int) bool {
 	switch f.Op.Kind {
 	case api.Turn:
-		return slices.Equal(f.Op.At, others(len(f.Op.At), nil))
+		return slices.Equal(f.Op.At, list.Others(len(f.Op.At)))
 	case api.Flip:
 		return len(f.Op.At) == 0
 	}
@@ -148,7 +148,7 @@ func (f *asked) both(first api.Op, rank int) api.Op {
 	case api.Turn:
 		return api.Op{Kind: api.Turn, At: list.These(first.At, f.Op.At)}
 	case api.Flip:
-		flips := slices.DeleteFunc(others(rank, nil), func(k int) bool {
+		flips := slices.DeleteFunc(list.Others(rank), func(k int) bool {
 			return slices.Contains(first.At, k) == slices.Contains(f.Op.At, k)
 		})
 		return api.Op{Kind: api.Flip, At: flips}
@@ -225,17 +225,6 @@ func (f *asked) holds(class int, n int64) bool {
 		}
 	}
 	return false
-}
-
-// others are the numbers from 0 on, below rank, that are not in a list.
-func others(rank int, at []int) []int {
-	var out []int
-	for k := range rank {
-		if !slices.Contains(at, k) {
-			out = append(out, k)
-		}
-	}
-	return out
 }
 
 // product is that of some dimensions of an array: it does not wrap round.

@@ -193,13 +193,7 @@ func others(rank int, lists ...[]int) ([]int, bool) {
 			named[k] = true
 		}
 	}
-	var out []int
-	for k := range rank {
-		if !named[k] {
-			out = append(out, k)
-		}
-	}
-	return out, true
+	return list.Others(rank, lists...), true
 }
 
 // chain is a new list of lists, one behind the other.

@@ -1,6 +1,8 @@
 // Package list: what several layers do with lists, whatever stands in them.
 package list
 
+import "slices"
+
 // Fresh is a list in memory of its own, like another one.
 func Fresh[T any](list []T) []T {
 	out := make([]T, len(list))
@@ -20,4 +22,15 @@ func Each[T, U any](list []T, of func(T) U) []U {
 // These are the things with these numbers.
 func These[T any](all []T, at []int) []T {
 	return Each(at, func(k int) T { return all[k] })
+}
+
+// Others are the numbers from 0 on, below many, that no list has.
+func Others(many int, lists ...[]int) []int {
+	out := []int{}
+	for k := range many {
+		if !slices.ContainsFunc(lists, func(list []int) bool { return slices.Contains(list, k) }) {
+			out = append(out, k)
+		}
+	}
+	return out
 }

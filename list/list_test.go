@@ -41,3 +41,18 @@ func TestThese(t *testing.T) {
 		t.Errorf("%v comes", got)
 	}
 }
+
+func TestOthers(t *testing.T) {
+	for _, c := range []struct {
+		many  int
+		lists [][]int
+		want  []int
+	}{
+		{0, nil, nil}, {1, nil, []int{0}}, {3, nil, []int{0, 1, 2}}, {3, [][]int{nil, {}}, []int{0, 1, 2}},
+		{4, [][]int{{2}}, []int{0, 1, 3}}, {4, [][]int{{3, 0}}, []int{1, 2}}, {5, [][]int{{1}, {4, 1}}, []int{0, 2, 3}}, {2, [][]int{{1}, {0}}, nil}, {2, [][]int{{2, -1, 7}}, []int{0, 1}},
+	} {
+		if got := list.Others(c.many, c.lists...); !slices.Equal(got, c.want) {
+			t.Errorf("%v comes of %d and %v, not %v", got, c.many, c.lists, c.want)
+		}
+	}
+}
