@@ -5,6 +5,7 @@ import (
 
 	"adjoint/api"
 	"adjoint/list"
+	"adjoint/sight"
 	"adjoint/view"
 )
 
@@ -54,7 +55,7 @@ func shape(op api.Op, args [][]int) ([]int, api.Errno) {
 	case api.Fill:
 		return list.Fresh(op.Dims), api.OK
 	case api.Spread, api.Turn, api.Cut, api.Flip:
-		v, err := seen(op, args[0])
+		v, err := sight.Read(op, args[0])
 		return v.Dims, err
 	case api.Sum:
 		return sumDims(op, args[0])
@@ -74,20 +75,6 @@ func shape(op api.Op, args [][]int) ([]int, api.Errno) {
 	return sameDims(args)
 }
 
-// seen is the view of an array, of whose dimensions nothing is wrong, that an operation makes an array of.
-func seen(op api.Op, dims []int) (api.View, api.Errno) {
-	v, _ := view.Whole(dims)
-	switch op.Kind {
-	case api.Spread:
-		return view.Spread(v, op.Dims, op.At)
-	case api.Turn:
-		return view.Turn(v, op.At)
-	case api.Cut:
-		return view.Cut(v, op.Lo, op.Hi, op.Step)
-	}
-	return view.Flip(v, op.At)
-}
-
 // sameDims are the dimensions that all have.
 func sameDims(args [][]int) ([]int, api.Errno) {
 	for _, dims := range args {
@@ -101,7 +88,7 @@ func sameDims(args [][]int) ([]int, api.Errno) {
 // sumDims are dimensions without those that are summed.
 func sumDims(op api.Op, dims []int) ([]int, api.Errno) {
 	// What may be flipped may be summed.
-	if _, err := seen(api.Op{Kind: api.Flip, At: op.At}, dims); err != api.OK {
+	if _, err := sight.Read(api.Op{Kind: api.Flip, At: op.At}, dims); err != api.OK {
 		return nil, err
 	}
 	kept, _ := others(len(dims), op.At)

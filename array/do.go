@@ -2,7 +2,7 @@ package array
 
 import (
 	"adjoint/api"
-	"adjoint/list"
+	"adjoint/sight"
 	"adjoint/view"
 )
 
@@ -36,7 +36,7 @@ func work(out api.Array, op api.Op, args []api.Array) {
 	case api.Reform:
 		copy(out.Data, args[0].Data)
 	case api.Sum, api.Pad:
-		add(out.Data, landing(op, args[0].Dims, out.Dims), args[0].Data)
+		add(out.Data, sight.Landing(op, args[0].Dims, out.Dims), args[0].Data)
 	case api.Dot:
 		dot(out.Data, op, args[0], args[1])
 	case api.Join:
@@ -79,7 +79,7 @@ func entry(op api.Op, args []api.Array) func(i int) int64 {
 
 // lookedAt tells, entry by entry, what a view of an array reads.
 func lookedAt(op api.Op, a api.Array) func(i int) int64 {
-	v, _ := seen(op, a.Dims)
+	v, _ := sight.Read(op, a.Dims)
 	places, _ := view.Reads(v)
 	return func(i int) int64 { return a.Data[places[i]] }
 }
@@ -104,25 +104,9 @@ func ofTwo(kind int) func(x, y int64) int64 {
 	}
 }
 
-// landing are the places, in what a Sum or Pad makes, where the entries of its argument go.
-func landing(op api.Op, from, made []int) []int {
-	v, _ := view.Whole(made)
-	if op.Kind == api.Sum {
-		kept, _ := others(len(from), op.At)
-		v, _ = view.Spread(v, from, kept)
-	} else {
-		end := list.Fresh(made)
-		for k, behind := range op.Hi {
-			end[k] -= behind
-		}
-		v, _ = view.Cut(v, op.Lo, end, op.Step)
-	}
+// add adds numbers to those that a view reads.
+func add(out []int64, v api.View, data []int64) {
 	places, _ := view.Reads(v)
-	return places
-}
-
-// add adds numbers to those at places.
-func add(out []int64, places []int, data []int64) {
 	for i, n := range data {
 		out[places[i]] += n
 	}

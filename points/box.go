@@ -6,6 +6,7 @@ import (
 
 	"adjoint/api"
 	"adjoint/list"
+	"adjoint/row"
 	"adjoint/view"
 )
 
@@ -48,4 +49,9 @@ func through(p api.Points) iter.Seq[[]int] {
 func fresh(p api.Points) api.Points {
 	rows := list.Each(p.Rows, func(r api.Row) api.Row { return api.Row{Coef: list.Fresh(r.Coef), Const: r.Const} })
 	return api.Points{Box: list.Fresh(p.Box), Rows: rows}
+}
+
+// above tells whether no row's number is below 0.
+func above(rows []api.Row, x []int) bool {
+	return !slices.ContainsFunc(rows, func(r api.Row) bool { return row.Number(r, x) < 0 })
 }
