@@ -47,8 +47,7 @@ func through(p api.Points) iter.Seq[[]int] {
 
 // fresh is a description of points in memory of its own.
 func fresh(p api.Points) api.Points {
-	rows := list.Each(p.Rows, func(r api.Row) api.Row { return api.Row{Coef: list.Fresh(r.Coef), Const: r.Const} })
-	return api.Points{Box: list.Fresh(p.Box), Rows: rows}
+	return api.Points{Box: list.Fresh(p.Box), Rows: list.Each(p.Rows, row.Fresh)}
 }
 
 // above tells whether no row's number is below 0.

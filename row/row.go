@@ -5,6 +5,7 @@ import (
 	"slices"
 
 	"adjoint/api"
+	"adjoint/list"
 )
 
 // Wrong is what is wrong with a row over so many numbers.
@@ -27,3 +28,6 @@ func Number(r api.Row, x []int) int {
 	}
 	return sum
 }
+
+// Fresh is a row in memory of its own.
+func Fresh(r api.Row) api.Row { return api.Row{Coef: list.Fresh(r.Coef), Const: r.Const} }

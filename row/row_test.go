@@ -2,6 +2,7 @@ package row_test
 
 import (
 	"math"
+	"slices"
 	"testing"
 
 	"adjoint/api"
@@ -38,5 +39,17 @@ func TestNumber(t *testing.T) {
 		if got := row.Number(c.row, c.x); got != c.want {
 			t.Errorf("%v of %v: %d comes, not %d", c.row, c.x, got, c.want)
 		}
+	}
+}
+
+func TestFresh(t *testing.T) {
+	r := api.Row{Coef: []int{1, 2}, Const: 3}
+	got := row.Fresh(r)
+	if !slices.Equal(got.Coef, r.Coef) || got.Const != 3 {
+		t.Errorf("%v comes of %v", got, r)
+	}
+	got.Coef[0] = 9
+	if r.Coef[0] != 1 {
+		t.Error("it shares memory with what it is like")
 	}
 }
