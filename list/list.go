@@ -34,3 +34,25 @@ func Others(many int, lists ...[]int) []int {
 	}
 	return out
 }
+
+// Pieces are what a list is cut into: so many, as even as can be. They share its memory.
+func Pieces[T any](list []T, many int) [][]T {
+	out := make([][]T, many)
+	for p := range out {
+		out[p] = list[p*len(list)/many : (p+1)*len(list)/many]
+	}
+	return out
+}
+
+// Picker tells, whenever it is asked, which one of so many is next: as picks say, from the first one on again and again; without picks the first of them.
+func Picker(picks []int) func(many int) int {
+	asked := 0
+	return func(many int) int {
+		if len(picks) == 0 {
+			return 0
+		}
+		number := picks[asked%len(picks)]
+		asked++
+		return (number%many + many) % many
+	}
+}

@@ -1,11 +1,15 @@
 package order
 
-import "slices"
+import (
+	"slices"
+
+	"adjoint/list"
+)
 
 // inTurn are all spots, in the order in which they are done.
 func inTurn(all []spot, mix []int) []spot {
 	slices.SortStableFunc(all, byTime)
-	pick := picker(mix)
+	pick := list.Picker(mix)
 	out := make([]spot, 0, len(all))
 	for len(all) > 0 {
 		many := atOnce(all)
@@ -27,17 +31,4 @@ func atOnce(all []spot) int {
 		return len(all)
 	}
 	return later
-}
-
-// picker tells, whenever it is asked, which one of so many is next: as mix says, from its first number on again and again.
-func picker(mix []int) func(many int) int {
-	asked := 0
-	return func(many int) int {
-		if len(mix) == 0 {
-			return 0
-		}
-		number := mix[asked%len(mix)]
-		asked++
-		return (number%many + many) % many
-	}
 }

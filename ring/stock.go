@@ -1,23 +1,16 @@
 package ring
 
+import "adjoint/list"
+
 // stock is what a member sends, and what it has. Of all kinds but AllSwap these are one list, for what came is sent on.
 type stock struct {
 	sends [][]int64 // by numbers of pieces
 	has   [][]int64 // by numbers of pieces, too; of AllSwap by whose they were
 }
 
-// pieces cuts words into so many pieces (T1).
-func pieces(words []int64, many int) [][]int64 {
-	out := make([][]int64, many)
-	for p := range out {
-		out[p] = words[p*len(words)/many : (p+1)*len(words)/many]
-	}
-	return out
-}
-
-// cut is all pieces of a member's own words.
+// cut is all pieces (T1) of a member's own words.
 func cut(own []int64, many, _ int) stock {
-	all := pieces(own, many)
+	all := list.Pieces(own, many)
 	return stock{all, all}
 }
 
@@ -30,7 +23,7 @@ func whole(own []int64, many, me int) stock {
 
 // apart is all pieces of a member's own words, which are sent whatever comes ahead of that, and the one that it keeps.
 func apart(own []int64, many, me int) stock {
-	sends, has := pieces(own, many), make([][]int64, many)
+	sends, has := list.Pieces(own, many), make([][]int64, many)
 	has[me] = sends[me]
 	return stock{sends, has}
 }
