@@ -239,7 +239,7 @@ func (x opening) wrongByHand() api.Errno {
 	if x.machines < 1 || x.machines > crowd {
 		return api.ErrRange
 	}
-	if x.disk.Size() != 4*len(x.start.Data)+2 {
+	if x.disk.Size() < 4*len(x.start.Data)+2 {
 		return api.ErrMuch
 	}
 	return api.OK

@@ -15,7 +15,8 @@ func TestW6Whatever(t *testing.T) {
 	seen := map[string]int{}
 	for range 1500 {
 		c := d.class()
-		mine, own := c.disk(), c.disk()
+		behind := d.words(d.of(0, 0, 1, 2, 9))
+		mine, own := c.with(behind...), c.with(behind...)
 		var x *train.Trainer
 		var h *byHand
 		for range 40 {
@@ -42,6 +43,7 @@ func TestW6Whatever(t *testing.T) {
 				wantStep(t, x, d.picks(), fall, want)
 			}
 			wantAlike(t, x, mine, h)
+			c.wantBehind(t, mine, behind...)
 			if t.Failed() {
 				t.Fatalf("%s: %s", c.name, short(c.plan))
 			}

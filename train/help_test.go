@@ -133,8 +133,16 @@ func (x lesson) taught(d dice, rows, batch, every int) class {
 	return class{x, p, of(dims, d.words(size(dims))...), of(slices.Clone(x.dims), d.words(size(x.dims))...)}
 }
 
-// disk returns an empty disk that fits.
-func (c class) disk() *disk { return empty(4*size(c.dims) + 2) }
+// needs is how many words both slots take.
+func (c class) needs() int { return 4*size(c.dims) + 2 }
+
+// disk returns an empty disk with these words and no more.
+func (c class) disk() *disk { return empty(c.needs()) }
+
+// with returns an empty disk that has these words behind both slots.
+func (c class) with(behind ...int64) *disk {
+	return holding(slices.Concat(make([]int64, c.needs()), behind)...)
+}
 
 // open is a trainer that can be opened.
 func (c class) open(t *testing.T, d api.Disk, machines int) *train.Trainer {
@@ -157,6 +165,7 @@ type disk struct {
 	words []int64
 	left  int   // so many words can be put yet; below 0: any number
 	puts  []put // the one that there was no power for is the last
+	reach int   // the words that were asked for are below it
 	bad   bool  // a word was asked for, or put, that there is not
 }
 
@@ -168,6 +177,7 @@ func holding(words ...int64) *disk { return &disk{words: slices.Clone(words), le
 func (d *disk) Size() int { return len(d.words) }
 
 func (d *disk) Get(i int) int64 {
+	d.reach = max(d.reach, i+1)
 	if i < 0 || i >= len(d.words) {
 		d.bad = true
 		return 0
@@ -391,6 +401,17 @@ func wantAlike(t *testing.T, x *train.Trainer, d *disk, h *byHand) {
 	}
 	if !slices.Equal(d.puts, h.puts) {
 		t.Errorf("%s: %s were put, not %s", h.name, short(d.puts), short(h.puts))
+	}
+}
+
+// wantBehind: these words lie behind both slots, and nobody looked at them.
+func (c class) wantBehind(t *testing.T, d *disk, want ...int64) {
+	t.Helper()
+	if got := d.words[c.needs():]; !slices.Equal(got, want) {
+		t.Errorf("%s: %s lie behind both slots, not %s", c.name, short(got), short(want))
+	}
+	if d.reach > c.needs() {
+		t.Errorf("%s: word %d was asked for, and just %d are the slots'", c.name, d.reach-1, c.needs())
 	}
 }
 

@@ -133,8 +133,6 @@ func wrongOpens() []wrongOpen {
 		{"a disk without words", 4, api.ErrMuch, disk(0)},
 		{"a disk for one slot", 4, api.ErrMuch, disk(5)},
 		{"a disk of a word too few", 4, api.ErrMuch, disk(9)},
-		{"a disk of a word too many", 4, api.ErrMuch, disk(11)},
-		{"a disk for three slots", 4, api.ErrMuch, disk(15)},
 		{"no disk", 4, api.ErrMuch, func(x *opening) { x.disk = nil }},
 	}
 }
@@ -196,18 +194,80 @@ func TestW5Machines(t *testing.T) {
 	}
 }
 
-// W5: the words that a disk must have hang on how many entries the weights have.
+// W5: the words that a disk must have, be there more or not, hang on how many entries the weights have.
 func TestW5Sizes(t *testing.T) {
 	for _, x := range lessons() {
 		c := x.taught(thrown(3), 2, 1, 1)
 		n := size(x.dims)
-		for words := range 4*n + 8 {
+		for words := range 8*n + 8 {
 			got, err := train.Open(c.plan, c.data, c.start, empty(words), 1)
-			if fits := words == 4*n+2; fits != (got != nil) || fits != (err == api.OK) || !fits && err != api.ErrMuch {
+			if fits := words >= 4*n+2; fits != (got != nil) || fits != (err == api.OK) || !fits && err != api.ErrMuch {
 				t.Errorf("%s: a disk of %d words: %d comes", x.name, words, err)
 			}
 		}
 	}
+}
+
+// behinds are words that may lie behind both slots, some of which would say something if they were a head.
+func (c class) behinds(d dice) [][]int64 {
+	slot := 2*size(c.dims) + 1
+	third := append(w(allSteps+1), d.words(slot-1)...)
+	return [][]int64{nil, w(7), w(allSteps + 1), w(0, 3), third, append(w(-1), third...), slices.Concat(third, third, third), d.words(100)}
+}
+
+// W4, W5: on a disk with more words a trainer goes on, falls and saves as on one that has just those of both slots; what lies behind them is nobody's.
+func TestW5WordsBehind(t *testing.T) {
+	d := thrown(5)
+	for _, lesson := range lessons() {
+		c := lesson.taught(d, 4, 2, 1)
+		for _, behind := range c.behinds(d) {
+			more, just := c.with(behind...), c.disk()
+			for _, machines := range l(2, 1, 3, crowd) {
+				x, y := c.open(t, more, machines), c.open(t, just, machines)
+				h := c.openByHand(holding(just.words...), machines)
+				for _, fall := range l(-1, -1, -1, 0) {
+					want := h.step(fall)
+					wantStep(t, x, nil, fall, want)
+					wantStep(t, y, nil, fall, want)
+				}
+				wantAlike(t, y, just, h)
+				wantPuts(t, more, just.puts...)
+				just.puts = nil
+				if got := more.words[:c.needs()]; !slices.Equal(got, just.words) {
+					t.Errorf("%s: the slots have %s, not %s", c.name, short(got), short(just.words))
+				}
+				c.wantBehind(t, more, behind...)
+			}
+			if t.Failed() {
+				t.Fatal(short(behind))
+			}
+		}
+	}
+}
+
+// vast is a disk that says it has very many words.
+type vast struct{ *disk }
+
+func (vast) Size() int { return most }
+
+// minus is a disk that says it has fewer words than none.
+type minus struct{ *disk }
+
+func (minus) Size() int { return least }
+
+// W5: a disk may say any number.
+func TestW5AnySize(t *testing.T) {
+	c := named(t, "line").taught(thrown(6), 4, 2, 1)
+	d := c.disk()
+	x := c.open(t, vast{d}, 2)
+	wantStep(t, x, nil, -1, api.OK)
+	wantWeights(t, x, 1, l(2), c.after(1)...)
+	if d.bad {
+		t.Error("a word was asked for, or put, behind both slots")
+	}
+	y := opened()
+	y.disk = minus{empty(10)}
+	wantNoOpen(t, "a disk of fewer words than none", y, api.ErrMuch)
 }
 
 // W5: nothing is put on the disk, whatever lies there, however often it is opened; and what lies there is told.
@@ -215,7 +275,7 @@ func TestW5PutsNothing(t *testing.T) {
 	d := thrown(4)
 	for range 300 {
 		c := d.class()
-		disk := c.disk()
+		disk := c.with(make([]int64, d.of(0, 0, 1, 2, 9))...)
 		copy(disk.words, d.words(len(disk.words)))
 		n := size(c.dims)
 		for _, at := range l(0, 2*n+1) {

@@ -9,15 +9,15 @@ import (
 // nowhere: no slot says anything.
 const nowhere = -1
 
-// slots are the two of a disk, in each of which a state can lie: the head, the weights, the momentum.
+// slots are the two of a disk, in each of which a state can lie: the head, the weights, the momentum. What lies behind both is someone else's.
 type slots struct {
 	disk    api.Disk
 	entries int // of the weights
 	newest  int // the slot in which the newest state lies, or nowhere
 }
 
-// fit tells whether the disk has just the words of two slots; one that is not there has none.
-func (s *slots) fit() bool { return s.disk != nil && s.disk.Size() == s.at(2) }
+// fit tells whether the disk has room for two slots; one that is not there has none.
+func (s *slots) fit() bool { return s.disk != nil && s.disk.Size() >= s.at(2) }
 
 // at is the word at which a slot begins.
 func (s *slots) at(slot int) int { return slot * (2*s.entries + 1) }
